@@ -22,7 +22,6 @@ func (a teeth) with(b teeth) teeth { return a | b }
 
 func (a teeth) isPartOf(b teeth) bool { return a.without(b) == 0 }
 
-// oneTooth returns the set that has this tooth alone.
 func oneTooth(tooth int) (teeth, bool) {
 	if tooth < 0 || tooth >= toothCount {
 		return 0, false
@@ -30,7 +29,7 @@ func oneTooth(tooth int) (teeth, bool) {
 	return 1 << tooth, true
 }
 
-// places is a set of indices in a list of at most MaxBar sets of teeth.
+// places keeps indices in a list as bits: 64 of them are enough for MaxBar.
 type places uint64
 
 func (p places) has(i int) bool { return p>>i&1 == 1 }
@@ -103,8 +102,8 @@ func areOrderable(sets []int) bool {
 	return true
 }
 
-// partsIn returns for each of the sets the places of the other ones that are
-// part of it.
+// partsIn leaves out the set itself, which is part of itself but never in the
+// way.
 func partsIn(sets []int) []places {
 	parts := make([]places, len(sets))
 	for i, s := range sets {
