@@ -158,8 +158,8 @@ func CountOrders(sets []int) int {
 	return orders[len(orders)-1]
 }
 
-func hasPlace(bar []int, place int) bool {
-	return 0 <= place && place < len(bar)
+func hasPlace[T any](list []T, place int) bool {
+	return 0 <= place && place < len(list)
 }
 
 func BreakRail(bar []int, place int, tooth int) ([]int, bool) {

@@ -2,8 +2,8 @@ package tests
 
 import "slices"
 
-// The reference follows the sentences of chapter 2 with a set of teeth as seven
-// truths, so that it shares no step with the program.
+// The reference follows the sentences of chapter 2 and goes through a set of
+// teeth digit by digit, so that it shares no step with the program.
 
 type refSet [7]bool
 
@@ -19,11 +19,11 @@ func refTeeth(s int) refSet {
 }
 
 func refIsPart(a, b int) bool {
-	x, y := refTeeth(a), refTeeth(b)
-	for t := range x {
-		if x[t] && !y[t] {
+	for range 7 {
+		if a%2 == 1 && b%2 == 0 {
 			return false
 		}
+		a, b = a/2, b/2
 	}
 	return true
 }
