@@ -39,11 +39,15 @@ func (p places) with(i int) places { return p | 1<<i }
 func (p places) arePartOf(q places) bool { return p&^q == 0 }
 
 func IsBar(bar []int) bool {
-	if len(bar) < 1 || len(bar) > MaxBar {
+	return isListOf(bar, 1, MaxBar, func(s int) bool { return teeth(s).isSet() })
+}
+
+func isListOf[T any](list []T, least int, most int, is func(T) bool) bool {
+	if len(list) < least || len(list) > most {
 		return false
 	}
-	for _, s := range bar {
-		if !teeth(s).isSet() {
+	for _, x := range list {
+		if !is(x) {
 			return false
 		}
 	}
