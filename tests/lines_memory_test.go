@@ -40,19 +40,7 @@ func TestLinesKeepTheirArguments(t *testing.T) {
 			for _, list := range [][]int{{7, 3}, {8, 7, 6, 5, 4, 3, 2, 1}, {60}} {
 				line, all := roomy(plain)
 				other, allOther := roomy(list)
-				before, beforeOther := slices.Clone(all), slices.Clone(allOther)
-				for name, call := range lineCalls(m, line, other) {
-					first := call()
-					want := slices.Clone(first)
-					second := call()
-					fillAll(first)
-					if !slices.Equal(all, before) || !slices.Equal(allOther, beforeOther) {
-						t.Fatalf("%s of %v at %+v modified its arguments", name, plain, m)
-					}
-					if !slices.Equal(second, want) || !slices.Equal(call(), want) {
-						t.Fatalf("%s of %v at %+v shares memory or keeps state", name, plain, m)
-					}
-				}
+				checkMemory(t, lineCalls(m, line, other), all, allOther)
 			}
 		}
 	}

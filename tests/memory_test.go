@@ -21,18 +21,25 @@ func roomy(list []int) ([]int, []int) {
 func TestTeethKeepTheirArguments(t *testing.T) {
 	for _, list := range slices.Concat(edgeLists(), randomSets(20, 40), randomBars(20, 40)) {
 		bar, all := roomy(list)
-		before := slices.Clone(all)
-		for name, call := range listCalls(bar) {
-			first := call()
-			if !slices.Equal(all, before) {
-				t.Fatalf("%s modified %v", name, list)
-			}
-			want := slices.Clone(first)
-			second := call()
-			fillAll(first)
-			if !slices.Equal(all, before) || !slices.Equal(second, want) || !slices.Equal(call(), want) {
-				t.Fatalf("%s of %v shares memory or keeps state", name, list)
-			}
+		checkMemory(t, listCalls(bar), all)
+	}
+}
+
+// checkMemory holds calls to what chapter 1 says about memory, given all the
+// memory that belongs to their arguments.
+func checkMemory(t *testing.T, calls map[string]func() []int, arguments ...[]int) {
+	t.Helper()
+	before := slices.Concat(arguments...)
+	for name, call := range calls {
+		first := call()
+		want := slices.Clone(first)
+		second := call()
+		fillAll(first)
+		if !slices.Equal(slices.Concat(arguments...), before) {
+			t.Fatalf("%s modified its arguments or shares their memory: %v", name, before)
+		}
+		if !slices.Equal(second, want) || !slices.Equal(call(), want) {
+			t.Fatalf("%s shares memory or keeps state: %v", name, before)
 		}
 	}
 }
