@@ -128,20 +128,29 @@ func TestMachinesKeepTheirArguments(t *testing.T) {
 			x := roomyMachine(plain)
 			lines := append(make([]string, 0, 60), " ", f.Letters[:1], "")[:2]
 			before, beforeLines := wholeMachine(x), slices.Clone(lines[:cap(lines)])
-			for name, call := range machineCalls(x, lines) {
-				first := call()
-				want := first.kept()
-				second := call()
-				if first.spoil() {
-					t.Fatalf("lists that %s of %+v returned share memory", name, plain)
-				}
-				if !second.equals(want) || !call().equals(want) {
-					t.Fatalf("%s of %+v shares memory or keeps state", name, plain)
-				}
-				if !sameMachine(wholeMachine(x), before) || !slices.Equal(lines[:cap(lines)], beforeLines) {
-					t.Fatalf("%s of %+v modified its arguments", name, plain)
-				}
-			}
+			checkOutcomes(t, machineCalls(x, lines), func() bool {
+				return sameMachine(wholeMachine(x), before) && slices.Equal(lines[:cap(lines)], beforeLines)
+			})
+		}
+	}
+}
+
+// checkOutcomes holds calls to what chapter 1 says about memory, given a function
+// that says whether all the memory of their arguments is as it was.
+func checkOutcomes(t *testing.T, calls map[string]func() outcome, unchanged func() bool) {
+	t.Helper()
+	for name, call := range calls {
+		first := call()
+		want := first.kept()
+		second := call()
+		if first.spoil() {
+			t.Fatalf("lists that %s returned share memory: %+v", name, want)
+		}
+		if !second.equals(want) || !call().equals(want) {
+			t.Fatalf("%s shares memory or keeps state: %+v", name, want)
+		}
+		if !unchanged() {
+			t.Fatalf("%s modified its arguments: %+v", name, want)
 		}
 	}
 }

@@ -16,6 +16,17 @@ func sameMachine(a, b impl.Machine) bool {
 		slices.Equal(a.Line, b.Line) && slices.Equal(a.Waiting, b.Waiting)
 }
 
+// checkSeen fails if a test came to hardly any case with one of the names.
+func checkSeen(t *testing.T, seen map[string]int, names ...string) {
+	t.Helper()
+	t.Log(seen)
+	for _, name := range names {
+		if seen[name] < 20 {
+			t.Errorf("only %d cases are: %s", seen[name], name)
+		}
+	}
+}
+
 func TestNewMachines(t *testing.T) {
 	measures := append(some(badMeasures()), measure(1, 1, 1), measure(2000, 100, 100), measure(30, 2, 5))
 	for _, f := range slices.Concat(machineFonts(), some(badFonts()), randomFonts(5, 40)) {
@@ -53,12 +64,7 @@ func TestMachines(t *testing.T) {
 			checkMachine(t, random, x, seen)
 		}
 	}
-	t.Log(seen)
-	for _, name := range []string{"keyed whole", "keyed in part", "full and cast", "loose and cast", "loose", "cast beyond a limit", "dropped all", "dropped in part", "worn", "set", "not set"} {
-		if seen[name] < 20 {
-			t.Errorf("only %d machines are for %s", seen[name], name)
-		}
-	}
+	checkSeen(t, seen, "keyed whole", "keyed in part", "full and cast", "loose and cast", "loose", "cast beyond a limit", "dropped all", "dropped in part", "worn", "set", "not set")
 }
 
 func TestWhatIsNoMachine(t *testing.T) {

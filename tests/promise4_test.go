@@ -42,12 +42,7 @@ func TestBreakingsAreNumberedInTheirOrder(t *testing.T) {
 			seen[classOf(count)]++
 		}
 	}
-	t.Log(seen)
-	for _, name := range []string{"none", "one", "some", "many", "greedy", "greedy without an end"} {
-		if seen[name] < 20 {
-			t.Errorf("only %d texts are for %s", seen[name], name)
-		}
-	}
+	checkSeen(t, seen, "none", "one", "some", "many", "greedy", "greedy without an end")
 }
 
 func classOf(count int) string {

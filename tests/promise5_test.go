@@ -132,12 +132,7 @@ func TestMatricesAndBandsAreKept(t *testing.T) {
 			}
 		}
 	}
-	t.Log(seen)
-	for _, name := range []string{"keyed", "cast", "not cast", "dropped", "no room", "worn", "cast with faults"} {
-		if seen[name] < 20 {
-			t.Errorf("only %d were %s", seen[name], name)
-		}
-	}
+	checkSeen(t, seen, "keyed", "cast", "not cast", "dropped", "no room", "worn", "cast with faults")
 }
 
 func TestWhatIsKeyedIsCast(t *testing.T) {
